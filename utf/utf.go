@@ -112,7 +112,6 @@ func units(b []byte) iter.Seq[api.Unit] {
 
 // point is the code point with whose bytes b begins, and how many bytes it has: 0, if b begins with none.
 func point(b []byte) (r, width int) {
-	seen := 0
 bytes:
 	for i, c := range b {
 		switch {
@@ -123,10 +122,9 @@ bytes:
 		default:
 			break bytes
 		}
-		seen++
 	}
-	// A number of another size was written with too many bytes, or is no code point: its bytes are not these.
-	if seen != width || size(r) != width {
+	// A number of another size is no code point, or was written with too many bytes, or was cut off: the bits that came are then too few for so many bytes.
+	if size(r) != width {
 		return 0, 0
 	}
 	return r, width
